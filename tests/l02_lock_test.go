@@ -41,13 +41,17 @@ func signature(key int64, text int64) int64 {
 	return impl.SignOf(key, text).Value
 }
 
-// shortSumOf computes the sum of the four-byte numbers, modulo 1000, without the package.
-func shortSumOf(list ...int64) int64 {
+// sumOfInts computes the sum of the four-byte numbers without the package.
+func sumOfInts(list ...int64) int64 {
 	var data []byte
 	for _, n := range list {
 		data = append(data, byte(n>>24), byte(n>>16), byte(n>>8), byte(n))
 	}
-	return sumByPowers(data) % 1000
+	return sumByPowers(data)
+}
+
+func shortSumOf(list ...int64) int64 {
+	return sumOfInts(list...) % 1000
 }
 
 // malformedKeys are no keys, although 900 to 999 can be pushed.

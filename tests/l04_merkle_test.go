@@ -11,11 +11,7 @@ import (
 
 // joinOf joins two sums without the package.
 func joinOf(a int64, b int64) int64 {
-	var data []byte
-	for _, n := range []int64{a, b} {
-		data = append(data, byte(n>>24), byte(n>>16), byte(n>>8), byte(n))
-	}
-	return sumByPowers(data)
+	return sumOfInts(a, b)
 }
 
 // modelTree computes a tree from the top down: the left half of 2^depth places
